@@ -60,19 +60,14 @@ func NatAdd(a []int, b []int) ([]int, bool) {
 	if !NatOk(a) || !NatOk(b) {
 		return []int{}, false
 	}
-	// One digit of room above both takes the last carry.
-	sum := digitsCopy(a, max(len(a), len(b))+1)
-	addDigits(sum, b)
-	return withinMaxDigits(withoutNoughts(sum))
+	return withinMaxDigits(digitsSum(a, b))
 }
 
 func NatSub(a []int, b []int) ([]int, bool) {
 	if !NatOk(a) || !NatOk(b) || compareDigits(a, b) < 0 {
 		return []int{}, false
 	}
-	rest := digitsCopy(a, len(a))
-	takeTimes(rest, b, 1)
-	return withoutNoughts(rest), true
+	return digitsDifference(a, b), true
 }
 
 func NatMul(a []int, b []int) ([]int, bool) {
@@ -149,6 +144,20 @@ func takeTimes(from []int, less []int, times int) int {
 		lacking = -(left >> digitBits)
 	}
 	return lacking
+}
+
+func digitsSum(a []int, b []int) []int {
+	// One digit of room above both takes the last carry.
+	sum := digitsCopy(a, max(len(a), len(b))+1)
+	addDigits(sum, b)
+	return withoutNoughts(sum)
+}
+
+// digitsDifference wants an a that is not below b.
+func digitsDifference(a []int, b []int) []int {
+	rest := digitsCopy(a, len(a))
+	takeTimes(rest, b, 1)
+	return withoutNoughts(rest)
 }
 
 // digitsProduct knows no limit, so that what is left of a long product can still be reckoned.

@@ -30,44 +30,87 @@ func spoil[D any](list []D, mark D) {
 	}
 }
 
+// listCall is a function of lists as one that answers lists.
+type listCall func(args [][]int) [][]int
+
+// guardAll guards each list, and answers the lists with room behind them too.
+func guardAll(lists [][]int) ([]guarded[int], [][]int) {
+	all := make([]guarded[int], len(lists))
+	args := make([][]int, len(lists))
+	for i, list := range lists {
+		all[i] = guard(list, 4711)
+		args[i] = all[i].list
+	}
+	return all, args
+}
+
+func anyTouched(all []guarded[int]) bool {
+	return slices.ContainsFunc(all, guarded[int].touched)
+}
+
+func clipped(lists [][]int) [][]int {
+	copies := make([][]int, len(lists))
+	for i, list := range lists {
+		copies[i] = slices.Clip(slices.Clone(list))
+	}
+	return copies
+}
+
 // standsAlone calls with guarded arguments, spoils each answer in its turn, and looks that nothing else has changed.
-func standsAlone(t *testing.T, what string, a []int, b []int, call func(a []int, b []int) [][]int) {
+func standsAlone(t *testing.T, what string, lists [][]int, call listCall) {
 	t.Helper()
-	first, second := guard(a, 4711), guard(b, 4712)
-	plain := call(slices.Clip(slices.Clone(a)), slices.Clip(slices.Clone(b)))
-	answers := call(first.list, second.list)
+	all, args := guardAll(lists)
+	plain := call(clipped(lists))
+	answers := call(args)
 	for i, answer := range answers {
 		sameDigits(t, what+", with spare room behind its arguments", answer, plain[i])
 	}
-	if first.touched() || second.touched() {
-		t.Errorf("%s(%v, %v) wrote into an argument", what, a, b)
+	if anyTouched(all) {
+		t.Errorf("%s%v wrote into an argument", what, lists)
 	}
 	for i, answer := range answers {
 		spoil(answer, 4713)
 		for j := i + 1; j < len(answers); j++ {
 			sameDigits(t, what+": another answer, after one was written over", answers[j], plain[j])
 		}
-		if first.touched() || second.touched() {
-			t.Errorf("%s(%v, %v): answer %d shares memory with an argument", what, a, b, i)
+		if anyTouched(all) {
+			t.Errorf("%s%v: answer %d shares memory with an argument", what, lists, i)
 		}
 	}
-	again := call(first.list, second.list)
-	for i, answer := range again {
+	for i, answer := range call(args) {
 		sameDigits(t, what+", a second time", answer, plain[i])
 	}
 }
 
-// pairCalls are the functions of two naturals, each as one that answers lists.
-func pairCalls() map[string]func(a []int, b []int) [][]int {
-	return map[string]func(a []int, b []int) [][]int{
-		"NatAdd": func(a []int, b []int) [][]int { c, _ := impl.NatAdd(a, b); return [][]int{c} },
-		"NatSub": func(a []int, b []int) [][]int { c, _ := impl.NatSub(a, b); return [][]int{c} },
-		"NatMul": func(a []int, b []int) [][]int { c, _ := impl.NatMul(a, b); return [][]int{c} },
-		"NatDiv": func(a []int, b []int) [][]int { c, d, _ := impl.NatDiv(a, b); return [][]int{c, d} },
-		"the others": func(a []int, b []int) [][]int {
-			n, _ := impl.NatInt(a)
-			m, _ := impl.NatInt(b)
-			return [][]int{{n, m, impl.NatCompare(a, b), impl.NatBits(a), impl.NatBits(b)}}
+// takesOneListForAll hands one list in as every argument.
+func takesOneListForAll(t *testing.T, what string, list []int, many int, call listCall) {
+	t.Helper()
+	one := guard(list, 4711)
+	args := make([][]int, many)
+	for i := range args {
+		args[i] = one.list
+	}
+	want := call(clipped(args))
+	for i, answer := range call(args) {
+		sameDigits(t, what+" of one list for all", answer, want[i])
+		spoil(answer, 4713)
+	}
+	if one.touched() {
+		t.Errorf("%s of %v for all touched it", what, list)
+	}
+}
+
+// natCalls are the functions of two naturals.
+func natCalls() map[string]listCall {
+	return map[string]listCall{
+		"NatAdd": func(args [][]int) [][]int { c, _ := impl.NatAdd(args[0], args[1]); return [][]int{c} },
+		"NatSub": func(args [][]int) [][]int { c, _ := impl.NatSub(args[0], args[1]); return [][]int{c} },
+		"NatMul": func(args [][]int) [][]int { c, _ := impl.NatMul(args[0], args[1]); return [][]int{c} },
+		"NatDiv": func(args [][]int) [][]int { c, d, _ := impl.NatDiv(args[0], args[1]); return [][]int{c, d} },
+		"the others": func(args [][]int) [][]int {
+			n, _ := impl.NatInt(args[0])
+			m, _ := impl.NatInt(args[1])
+			return [][]int{{n, m, impl.NatCompare(args[0], args[1]), impl.NatBits(args[0]), impl.NatBits(args[1])}}
 		},
 	}
 }
@@ -75,27 +118,19 @@ func pairCalls() map[string]func(a []int, b []int) [][]int {
 func TestNatsStandAlone(t *testing.T) {
 	lists := [][]int{nil, {1}, {7}, {65535}, {0, 1}, {5, 6}, {65535, 65535}, {3, 0, 32768}, {1, 0, 8192}, many(65535, 31), power(1, 32), many(65535, 64)}
 	lists = append(lists, []int{0}, []int{-1}, many(1, 65))
-	for what, call := range pairCalls() {
+	for what, call := range natCalls() {
 		for _, a := range lists {
 			for _, b := range lists {
-				standsAlone(t, what, a, b, call)
+				standsAlone(t, what, [][]int{a, b}, call)
 			}
 		}
 	}
 }
 
 func TestOneListAsBothArguments(t *testing.T) {
-	for what, call := range pairCalls() {
+	for what, call := range natCalls() {
 		for _, a := range naturals() {
-			both := guard(a, 4711)
-			want := call(slices.Clone(a), slices.Clone(a))
-			for i, answer := range call(both.list, both.list) {
-				sameDigits(t, what+" of one list and itself", answer, want[i])
-				spoil(answer, 4713)
-			}
-			if both.touched() {
-				t.Errorf("%s of %v and itself touched it", what, a)
-			}
+			takesOneListForAll(t, what, a, 2, call)
 		}
 	}
 }
