@@ -29,7 +29,7 @@ func comeBack(t *testing.T, k impl.Curve, a impl.Point) {
 			t.Errorf("PointBytes(%+v, %v, %v): got %v %v, want %v", k, a, short, b, ok, want)
 		}
 		c, ok := impl.PointRead(k, b)
-		samePoint(t, "PointRead of PointBytes", c, ok, a)
+		sameElement(t, "PointRead of PointBytes", c, ok, a)
 	}
 }
 
@@ -76,7 +76,7 @@ func TestPointBytesByHand(t *testing.T) {
 			t.Errorf("PointBytes(%v, %v): got %v %v, want %q", c.a, c.short, got, ok, c.want)
 		}
 		back, ok := impl.PointRead(c.k, []byte(c.want))
-		samePoint(t, "PointRead", back, ok, c.a)
+		sameElement(t, "PointRead", back, ok, c.a)
 	}
 }
 
@@ -96,13 +96,13 @@ func readsJust(t *testing.T, k impl.Curve, all map[string]impl.Point, b []byte) 
 	got, ok := impl.PointRead(k, b)
 	want, of := all[string(b)]
 	if !of {
-		refusedPoint(t, "PointRead of bytes that no point has", got, ok)
+		refusedElement(t, "PointRead of bytes that no point has", got, ok)
 		if ok {
 			t.Errorf("these are %v, by %+v", b, k)
 		}
 		return
 	}
-	samePoint(t, "PointRead", got, ok, want)
+	sameElement(t, "PointRead", got, ok, want)
 	again, ok := impl.PointBytes(k, got, len(b) == 4)
 	if !ok || !bytes.Equal(again, b) {
 		t.Errorf("%v was read by %+v, and written as %v %v", b, k, again, ok)
@@ -190,10 +190,10 @@ func TestPointReadWhereYWouldBe0(t *testing.T) {
 			met++
 			b := plainBytes(a, true)
 			got, ok := impl.PointRead(k, b)
-			samePoint(t, "PointRead of a short form with Y 0", got, ok, a)
+			sameElement(t, "PointRead of a short form with Y 0", got, ok, a)
 			b[0] = 3
 			got, ok = impl.PointRead(k, b)
-			refusedPoint(t, "PointRead of a short form with an odd Y 0", got, ok)
+			refusedElement(t, "PointRead of a short form with an odd Y 0", got, ok)
 		}
 	}
 	if met < 6 {
@@ -209,10 +209,10 @@ func TestPointReadOfGreatOnes(t *testing.T) {
 			a := s.anyPoint(k)
 			for _, wrong := range []impl.Point{{X: a.X + k.P, Y: a.Y}, {X: a.X, Y: a.Y + k.P}, {X: a.X + k.P, Y: a.Y + k.P}, {X: a.X + 15*k.P, Y: a.Y}} {
 				got, ok := impl.PointRead(k, plainBytes(wrong, false))
-				refusedPoint(t, "PointRead of an X or a Y that is P or more", got, ok)
+				refusedElement(t, "PointRead of an X or a Y that is P or more", got, ok)
 				if wrong.X >= k.P {
 					got, ok = impl.PointRead(k, plainBytes(wrong, true))
-					refusedPoint(t, "PointRead of a short X that is P or more", got, ok)
+					refusedElement(t, "PointRead of a short X that is P or more", got, ok)
 				}
 			}
 			x := s.below(k.P)
@@ -222,14 +222,14 @@ func TestPointReadOfGreatOnes(t *testing.T) {
 			none++
 			for _, first := range []int{2, 3} {
 				got, ok := impl.PointRead(k, plainBytes(impl.Point{X: x, Y: first}, true))
-				refusedPoint(t, "PointRead of an X that no point has", got, ok)
+				refusedElement(t, "PointRead of an X that no point has", got, ok)
 			}
 		}
 		for _, x := range []int{k.P, k.P + 1, 1 << 20, 1<<24 - 1} {
 			for _, y := range []int{0, 1, k.P, 1<<24 - 1} {
 				for _, short := range []bool{false, true} {
 					got, ok := impl.PointRead(k, plainBytes(impl.Point{X: x, Y: y}, short))
-					refusedPoint(t, "PointRead of an X that is P or more", got, ok)
+					refusedElement(t, "PointRead of an X that is P or more", got, ok)
 				}
 			}
 		}

@@ -1,8 +1,8 @@
 package tests
 
 import (
+	"fmt"
 	"math"
-	"testing"
 
 	"loop.example/g00148/impl"
 )
@@ -37,16 +37,27 @@ func planeSum(k impl.Curve, a impl.Point, b impl.Point) impl.Point {
 	return impl.Point{X: x, Y: bigRest(s*(a.X-x)-a.Y, k.P)}
 }
 
-// planeFold goes from the highest bit down.
 func planeFold(k impl.Curve, n int, a impl.Point) impl.Point {
-	sum := far
-	for i := 62; i >= 0; i-- {
-		sum = planeSum(k, sum, sum)
-		if n>>i&1 == 1 {
-			sum = planeSum(k, sum, a)
-		}
+	return curveGroup(k).plainFold(n, a)
+}
+
+func otherSide(k impl.Curve, a impl.Point) impl.Point {
+	if a.Far {
+		return a
 	}
-	return sum
+	return impl.Point{X: a.X, Y: (k.P - a.Y) % k.P}
+}
+
+func curveGroup(k impl.Curve) group[impl.Point] {
+	return group[impl.Point]{
+		name: fmt.Sprintf("%+v", k), zero: far, base: impl.Point{X: k.GX, Y: k.GY}, order: k.N,
+		add:      func(a impl.Point, b impl.Point) (impl.Point, bool) { return impl.PointAdd(k, a, b) },
+		mul:      func(n int, a impl.Point) (impl.Point, bool) { return impl.PointMul(k, n, a) },
+		plainSum: func(a impl.Point, b impl.Point) impl.Point { return planeSum(k, a, b) },
+		opposite: func(a impl.Point) impl.Point { return otherSide(k, a) },
+		all:      func() []impl.Point { return pointsOf(k) },
+		any:      func(s *turn) impl.Point { return s.anyPoint(k) },
+	}
 }
 
 func within(n int, low int, high int) bool {
@@ -103,13 +114,8 @@ func pointsOf(k impl.Curve) []impl.Point {
 	return list
 }
 
-// multiplesOf are the far point, a, and on, until the far point would come again.
 func multiplesOf(k impl.Curve, a impl.Point) []impl.Point {
-	list := []impl.Point{far}
-	for b := a; b != far; b = planeSum(k, b, a) {
-		list = append(list, b)
-	}
-	return list
+	return curveGroup(k).multiplesOf(a)
 }
 
 // curvesBy are all curves by p that are not flat, each with its first point of each order that wanted takes.
@@ -203,27 +209,13 @@ func (s *turn) anyPoint(k impl.Curve) impl.Point {
 	}
 }
 
-// greatCurves are those with P as great as can be.
+// greatCurves are those with P as great as can be; the last one has an N above MaxPrime.
 func greatCurves() []impl.Curve {
 	sided, _ := sidedCurve()
-	return []impl.Curve{topCurve, sided}
+	return []impl.Curve{topCurve, sided, {P: 1048571, A: 1048568, B: 197, N: 1049479, GX: 0, GY: 521830}}
 }
 
 // farOff are numbers that no field of a curve or a point may have.
 func farOff() []int {
 	return []int{-1, math.MinInt, math.MinInt + 1, math.MaxInt, math.MaxInt - 1, 1 << 40, 1 << 62, -1 << 32}
-}
-
-func samePoint(t *testing.T, what string, got impl.Point, ok bool, want impl.Point) {
-	t.Helper()
-	if !ok || got != want {
-		t.Errorf("%s: got %v %v, want %v true", what, got, ok, want)
-	}
-}
-
-func refusedPoint(t *testing.T, what string, got impl.Point, ok bool) {
-	t.Helper()
-	if ok || got != (impl.Point{}) {
-		t.Errorf("%s: got %v %v, want the zero value and false", what, got, ok)
-	}
 }

@@ -1,9 +1,7 @@
 package tests
 
 import (
-	"bytes"
 	"fmt"
-	"slices"
 	"testing"
 
 	"loop.example/g00148/impl"
@@ -18,17 +16,17 @@ func allRefuse(t *testing.T, what string, k impl.Curve, a impl.Point, right impl
 	}
 	for _, b := range []impl.Point{a, right, far} {
 		c, ok := impl.PointAdd(k, a, b)
-		refusedPoint(t, "PointAdd, "+what, c, ok)
+		refusedElement(t, "PointAdd, "+what, c, ok)
 		c, ok = impl.PointAdd(k, b, a)
-		refusedPoint(t, "PointAdd turned about, "+what, c, ok)
+		refusedElement(t, "PointAdd turned about, "+what, c, ok)
 	}
 	for _, n := range []int{-1, 0, 1, 2, 97, 1 << 40, 1<<40 + 1} {
 		c, ok := impl.PointMul(k, n, a)
-		refusedPoint(t, "PointMul, "+what, c, ok)
+		refusedElement(t, "PointMul, "+what, c, ok)
 		c, ok = impl.TwoMul(k, n, 0, a)
-		refusedPoint(t, "TwoMul, "+what, c, ok)
+		refusedElement(t, "TwoMul, "+what, c, ok)
 		c, ok = impl.TwoMul(k, 1, n, a)
-		refusedPoint(t, "TwoMul, "+what, c, ok)
+		refusedElement(t, "TwoMul, "+what, c, ok)
 	}
 	for _, short := range []bool{false, true} {
 		b, ok := impl.PointBytes(k, a, short)
@@ -48,7 +46,7 @@ func TestWrongCurvesAreRefused(t *testing.T) {
 		}
 		for _, b := range [][]byte{nil, {0}, {1}, plainBytes(g, false), plainBytes(g, true), {2, 0, 0, 1}, {3, 0, 0, 1}, {4, 0, 0, 0, 0, 0, 0}} {
 			c, ok := impl.PointRead(k, b)
-			refusedPoint(t, fmt.Sprintf("PointRead by a wrong curve %+v of %v", k, b), c, ok)
+			refusedElement(t, fmt.Sprintf("PointRead by a wrong curve %+v of %v", k, b), c, ok)
 		}
 	}
 }
@@ -67,7 +65,7 @@ func TestExtremeCurvesAreRefused(t *testing.T) {
 				allRefuse(t, "an extreme curve", l, g, g)
 				for _, b := range [][]byte{{0}, plainBytes(g, false), plainBytes(g, true)} {
 					c, ok := impl.PointRead(l, b)
-					refusedPoint(t, "PointRead by an extreme curve", c, ok)
+					refusedElement(t, "PointRead by an extreme curve", c, ok)
 				}
 			}
 		}
@@ -90,16 +88,7 @@ func TestPointBytesStandAlone(t *testing.T) {
 	k := smallCurves()[0]
 	for _, a := range append(pointsOf(k), impl.Point{X: -1}) {
 		for _, short := range []bool{false, true} {
-			first, _ := impl.PointBytes(k, a, short)
-			second, _ := impl.PointBytes(k, a, short)
-			want := bytes.Clone(second)
-			spoil(first, 77)
-			if !bytes.Equal(second, want) {
-				t.Errorf("two answers of PointBytes(%v, %v) share memory", a, short)
-			}
-			if third, _ := impl.PointBytes(k, a, short); !bytes.Equal(third, want) {
-				t.Errorf("PointBytes(%v, %v) is another one a second time: %v", a, short, third)
-			}
+			bytesStandAlone(t, fmt.Sprintf("PointBytes(%v, %v)", a, short), func() ([]byte, bool) { return impl.PointBytes(k, a, short) })
 		}
 	}
 }
@@ -110,19 +99,7 @@ func TestPointReadStandsAlone(t *testing.T) {
 	for text := range readers(k) {
 		texts = append(texts, text, text[:len(text)-1])
 	}
-	for _, text := range texts {
-		for _, mark := range []byte{0, 1, 23, 255} {
-			g := guard([]byte(text), mark)
-			want, wantOk := impl.PointRead(k, slices.Clip([]byte(text)))
-			got, ok := impl.PointRead(k, g.list)
-			if got != want || ok != wantOk {
-				t.Errorf("PointRead(%q) reads spare room: %v %v and %v %v", text, got, ok, want, wantOk)
-			}
-			if g.touched() {
-				t.Errorf("PointRead(%q) wrote into its argument", text)
-			}
-		}
-	}
+	readStandsAlone(t, texts, func(b []byte) (impl.Point, bool) { return impl.PointRead(k, b) })
 }
 
 func TestCurvesEndSoon(t *testing.T) {
