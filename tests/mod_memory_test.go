@@ -9,8 +9,8 @@ import (
 )
 
 // modCalls are the functions of naturals by a third one; ModInv leaves out the second.
-func modCalls() map[string]listCall {
-	return map[string]listCall{
+func modCalls() map[string]listCall[int] {
+	return map[string]listCall[int]{
 		"ModMul": func(args [][]int) [][]int { c, _ := impl.ModMul(args[0], args[1], args[2]); return [][]int{c} },
 		"ModPow": func(args [][]int) [][]int { c, _ := impl.ModPow(args[0], args[1], args[2]); return [][]int{c} },
 		"ModInv": func(args [][]int) [][]int { c, _ := impl.ModInv(args[0], args[2]); return [][]int{c} },

@@ -90,7 +90,7 @@ func wrongNaturals() [][]int {
 	}
 }
 
-func sameDigits(t *testing.T, what string, got []int, want []int) {
+func sameList[D comparable](t *testing.T, what string, got []D, want []D) {
 	t.Helper()
 	if !slices.Equal(got, want) {
 		t.Errorf("%s: got %v, want %v", what, got, want)

@@ -30,26 +30,36 @@ func spoil[D any](list []D, mark D) {
 	}
 }
 
+// What is listed is digits or bytes: marks are both.
+type listed interface {
+	int | byte
+}
+
+const (
+	roomMark  = 147
+	spoilMark = 213
+)
+
 // listCall is a function of lists as one that answers lists.
-type listCall func(args [][]int) [][]int
+type listCall[D listed] func(args [][]D) [][]D
 
 // guardAll guards each list, and answers the lists with room behind them too.
-func guardAll(lists [][]int) ([]guarded[int], [][]int) {
-	all := make([]guarded[int], len(lists))
-	args := make([][]int, len(lists))
+func guardAll[D listed](lists [][]D) ([]guarded[D], [][]D) {
+	all := make([]guarded[D], len(lists))
+	args := make([][]D, len(lists))
 	for i, list := range lists {
-		all[i] = guard(list, 4711)
+		all[i] = guard(list, roomMark)
 		args[i] = all[i].list
 	}
 	return all, args
 }
 
-func anyTouched(all []guarded[int]) bool {
-	return slices.ContainsFunc(all, guarded[int].touched)
+func anyTouched[D listed](all []guarded[D]) bool {
+	return slices.ContainsFunc(all, guarded[D].touched)
 }
 
-func clipped(lists [][]int) [][]int {
-	copies := make([][]int, len(lists))
+func clipped[D listed](lists [][]D) [][]D {
+	copies := make([][]D, len(lists))
 	for i, list := range lists {
 		copies[i] = slices.Clip(slices.Clone(list))
 	}
@@ -57,43 +67,43 @@ func clipped(lists [][]int) [][]int {
 }
 
 // standsAlone calls with guarded arguments, spoils each answer in its turn, and looks that nothing else has changed.
-func standsAlone(t *testing.T, what string, lists [][]int, call listCall) {
+func standsAlone[D listed](t *testing.T, what string, lists [][]D, call listCall[D]) {
 	t.Helper()
 	all, args := guardAll(lists)
 	plain := call(clipped(lists))
 	answers := call(args)
 	for i, answer := range answers {
-		sameDigits(t, what+", with spare room behind its arguments", answer, plain[i])
+		sameList(t, what+", with spare room behind its arguments", answer, plain[i])
 	}
 	if anyTouched(all) {
 		t.Errorf("%s%v wrote into an argument", what, lists)
 	}
 	for i, answer := range answers {
-		spoil(answer, 4713)
+		spoil(answer, spoilMark)
 		for j := i + 1; j < len(answers); j++ {
-			sameDigits(t, what+": another answer, after one was written over", answers[j], plain[j])
+			sameList(t, what+": another answer, after one was written over", answers[j], plain[j])
 		}
 		if anyTouched(all) {
 			t.Errorf("%s%v: answer %d shares memory with an argument", what, lists, i)
 		}
 	}
 	for i, answer := range call(args) {
-		sameDigits(t, what+", a second time", answer, plain[i])
+		sameList(t, what+", a second time", answer, plain[i])
 	}
 }
 
 // takesOneListForAll hands one list in as every argument.
-func takesOneListForAll(t *testing.T, what string, list []int, many int, call listCall) {
+func takesOneListForAll[D listed](t *testing.T, what string, list []D, many int, call listCall[D]) {
 	t.Helper()
-	one := guard(list, 4711)
-	args := make([][]int, many)
+	one := guard(list, roomMark)
+	args := make([][]D, many)
 	for i := range args {
 		args[i] = one.list
 	}
 	want := call(clipped(args))
 	for i, answer := range call(args) {
-		sameDigits(t, what+" of one list for all", answer, want[i])
-		spoil(answer, 4713)
+		sameList(t, what+" of one list for all", answer, want[i])
+		spoil(answer, spoilMark)
 	}
 	if one.touched() {
 		t.Errorf("%s of %v for all touched it", what, list)
@@ -101,8 +111,8 @@ func takesOneListForAll(t *testing.T, what string, list []int, many int, call li
 }
 
 // natCalls are the functions of two naturals.
-func natCalls() map[string]listCall {
-	return map[string]listCall{
+func natCalls() map[string]listCall[int] {
+	return map[string]listCall[int]{
 		"NatAdd": func(args [][]int) [][]int { c, _ := impl.NatAdd(args[0], args[1]); return [][]int{c} },
 		"NatSub": func(args [][]int) [][]int { c, _ := impl.NatSub(args[0], args[1]); return [][]int{c} },
 		"NatMul": func(args [][]int) [][]int { c, _ := impl.NatMul(args[0], args[1]); return [][]int{c} },
@@ -162,13 +172,13 @@ func TestNatReadStandsAlone(t *testing.T) {
 		g := guard(b, 77)
 		want, _ := impl.NatRead(slices.Clone(b))
 		got, _ := impl.NatRead(g.list)
-		sameDigits(t, "NatRead with spare room", got, want)
+		sameList(t, "NatRead with spare room", got, want)
 		spoil(got, 4713)
 		if g.touched() {
 			t.Errorf("NatRead of %d bytes wrote into its argument", size)
 		}
 		again, _ := impl.NatRead(g.list)
-		sameDigits(t, "NatRead a second time", again, want)
+		sameList(t, "NatRead a second time", again, want)
 	}
 }
 
@@ -178,8 +188,8 @@ func TestNatOfStandsAlone(t *testing.T) {
 		second, _ := impl.NatOf(n)
 		want := slices.Clone(second)
 		spoil(first, 4713)
-		sameDigits(t, "NatOf, after another answer was written over", second, want)
+		sameList(t, "NatOf, after another answer was written over", second, want)
 		third, _ := impl.NatOf(n)
-		sameDigits(t, "NatOf a second time", third, want)
+		sameList(t, "NatOf a second time", third, want)
 	}
 }

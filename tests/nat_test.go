@@ -241,7 +241,7 @@ func TestNatAddMeetsMaxDigits(t *testing.T) {
 	sum, ok := impl.NatAdd(append([]int{65534}, many(65535, 63)...), []int{1})
 	told(t, "a sum of 64 digits", sum, ok, bigOf(full))
 	sum, ok = impl.NatAdd(many(65535, 63), []int{1})
-	sameDigits(t, "a carry into digit 64", sum, power(1, 63))
+	sameList(t, "a carry into digit 64", sum, power(1, 63))
 	if !ok {
 		t.Error("a carry into digit 64 is refused")
 	}
