@@ -4,7 +4,9 @@ import (
 	"crypto/sha256"
 	"encoding/binary"
 	"fmt"
+	"math/big"
 	"slices"
+	"sync"
 	"testing"
 
 	"loop.example/g00148/impl"
@@ -26,6 +28,31 @@ func wordsOf(digest []byte) [8]int {
 func TestNewStream(t *testing.T) {
 	sameStream(t, "NewStream", impl.NewStream(), impl.Stream{H: firstWords()})
 	saysAll(t, "NewStream", impl.NewStream(), nil)
+}
+
+func TestFirstWordsAreRoots(t *testing.T) {
+	words := impl.NewStream().H
+	for i, prime := range []int64{2, 3, 5, 7, 11, 13, 17, 19} {
+		root := new(big.Int).Lsh(big.NewInt(prime), 64)
+		root.Sqrt(root)
+		if want := int(root.Int64() & (1<<32 - 1)); words[i] != want {
+			t.Errorf("word %d: got %x, the root of %d has %x", i, words[i], prime, want)
+		}
+	}
+}
+
+// A new stream is the same one, whether others are asked for beside it or were ahead of it.
+func TestNewStreamFromManySides(t *testing.T) {
+	answers := make([]impl.Stream, 32)
+	var all sync.WaitGroup
+	for i := range answers {
+		all.Go(func() { answers[i] = impl.NewStream() })
+	}
+	all.Wait()
+	for _, answer := range append(answers, impl.NewStream()) {
+		sameStream(t, "NewStream beside others", answer, impl.Stream{H: firstWords()})
+		sameHex(t, "abc behind it", impl.Digest(fed(t, answer, []byte("abc"))), impl.Sha([]byte("abc")))
+	}
 }
 
 func TestWordsBehindABlockPublished(t *testing.T) {
