@@ -88,7 +88,7 @@ func TestPointBytesStandAlone(t *testing.T) {
 	k := smallCurves()[0]
 	for _, a := range append(pointsOf(k), impl.Point{X: -1}) {
 		for _, short := range []bool{false, true} {
-			bytesStandAlone(t, fmt.Sprintf("PointBytes(%v, %v)", a, short), func() ([]byte, bool) { return impl.PointBytes(k, a, short) })
+			answersStandAlone(t, fmt.Sprintf("PointBytes(%v, %v)", a, short), func() ([]byte, bool) { return impl.PointBytes(k, a, short) })
 		}
 	}
 }

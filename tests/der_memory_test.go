@@ -176,7 +176,7 @@ func TestNumbersAndIdentifiersStandAlone(t *testing.T) {
 		turnsAlone(t, "OidBytes", oid, impl.OidBytes)
 	}
 	for _, n := range []int{0, 1, -1, 128, math.MaxInt, math.MinInt} {
-		bytesStandAlone(t, "IntBytes", func() ([]byte, bool) { return impl.IntBytes(n), true })
+		answersStandAlone(t, "IntBytes", func() ([]byte, bool) { return impl.IntBytes(n), true })
 	}
 }
 

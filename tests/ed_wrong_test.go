@@ -79,7 +79,7 @@ func TestWrongPairsAreRefused(t *testing.T) {
 func TestEdBytesStandAlone(t *testing.T) {
 	k := smallEds()[0]
 	for _, a := range append(pairsOf(k), impl.Pair{X: -1}) {
-		bytesStandAlone(t, fmt.Sprintf("EdBytes(%v)", a), func() ([]byte, bool) { return impl.EdBytes(k, a) })
+		answersStandAlone(t, fmt.Sprintf("EdBytes(%v)", a), func() ([]byte, bool) { return impl.EdBytes(k, a) })
 	}
 }
 

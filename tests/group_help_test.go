@@ -1,7 +1,6 @@
 package tests
 
 import (
-	"bytes"
 	"fmt"
 	"math"
 	"slices"
@@ -198,19 +197,16 @@ func (g group[E]) foldsAtTheEdges(t *testing.T, s *turn) {
 	}
 }
 
-// bytesStandAlone looks that no two answers of write share memory.
-func bytesStandAlone(t *testing.T, what string, write func() ([]byte, bool)) {
+// answersStandAlone looks that no two answers of tell share memory.
+func answersStandAlone[D listed](t *testing.T, what string, tell func() ([]D, bool)) {
 	t.Helper()
-	first, _ := write()
-	second, _ := write()
-	want := bytes.Clone(second)
-	spoil(first, 77)
-	if !bytes.Equal(second, want) {
-		t.Errorf("%s: two answers share memory", what)
-	}
-	if third, _ := write(); !bytes.Equal(third, want) {
-		t.Errorf("%s: another one a second time: %v", what, third)
-	}
+	first, _ := tell()
+	second, _ := tell()
+	want := slices.Clone(second)
+	spoil(first, spoilMark)
+	sameList(t, what+": after another answer was written over", second, want)
+	third, _ := tell()
+	sameList(t, what+" a second time", third, want)
 }
 
 // readStandsAlone looks that read neither reads nor writes what lies behind a text, nor writes into it.

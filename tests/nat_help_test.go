@@ -116,3 +116,24 @@ func refused[D any](t *testing.T, what string, got []D, ok bool) {
 		t.Errorf("%s: got %v %v, want nothing and false", what, got, ok)
 	}
 }
+
+// tally counts what was right and what was not, so that a test can tell that it has seen both.
+type tally struct {
+	right int
+	wrong int
+}
+
+func (c *tally) count(right bool) {
+	if right {
+		c.right++
+	} else {
+		c.wrong++
+	}
+}
+
+func (c *tally) enough(t *testing.T, least int) {
+	t.Helper()
+	if c.right < least || c.wrong < least {
+		t.Errorf("only %d and %d", c.right, c.wrong)
+	}
+}

@@ -190,14 +190,8 @@ func readsOidAs(t *testing.T, text []byte) bool {
 }
 
 func TestReadEachShortOid(t *testing.T) {
-	right, wrong := 0, 0
-	check := func(text []byte) {
-		if readsOidAs(t, text) {
-			right++
-		} else {
-			wrong++
-		}
-	}
+	seen := tally{}
+	check := func(text []byte) { seen.count(readsOidAs(t, text)) }
 	for size := range 3 {
 		eachText(allBytes(), size, check)
 	}
@@ -213,9 +207,7 @@ func TestReadEachShortOid(t *testing.T) {
 			}
 		}
 	}
-	if right < 10000 || wrong < 10000 {
-		t.Errorf("only %d and %d", right, wrong)
-	}
+	seen.enough(t, 10000)
 }
 
 func TestReadOidEdges(t *testing.T) {
