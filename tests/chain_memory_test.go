@@ -127,16 +127,25 @@ func TestBoundsStandAlone(t *testing.T) {
 	}
 }
 
-// Very great and very low numbers in each field.
-func TestChainsOfNumbersFarOff(t *testing.T) {
-	fields := map[string]func(c *impl.Cert, n int){
+// numberFields set each field of a certificate that has numbers.
+func numberFields() map[string]func(c *impl.Cert, n int) {
+	return map[string]func(c *impl.Cert, n int){
 		"Serial": func(c *impl.Cert, n int) { c.Serial = n }, "From": func(c *impl.Cert, n int) { c.From = n }, "To": func(c *impl.Cert, n int) { c.To = n }, "Alg": func(c *impl.Cert, n int) { c.Alg = n },
 		"Path": func(c *impl.Cert, n int) { c.Exts.Path = n }, "Usage": func(c *impl.Cert, n int) { c.Exts.Usage = n }, "Purposes": func(c *impl.Cert, n int) { c.Exts.Purposes = []int{n} }, "Nets": func(c *impl.Cert, n int) { c.Exts.Nets = [][]int{{n, n, n, n}} },
 		"Kind": func(c *impl.Cert, n int) { c.Key.Kind = n }, "N": func(c *impl.Cert, n int) { c.Key.N = []int{n, n} }, "E": func(c *impl.Cert, n int) { c.Key.E = n },
 		"Curve": func(c *impl.Cert, n int) { c.Key.Curve = impl.Curve{P: n, A: n, B: n, N: n, GX: n, GY: n} }, "Q": func(c *impl.Cert, n int) { c.Key.Q = impl.Point{X: n, Y: n, Far: n < 0} },
 		"Ed": func(c *impl.Cert, n int) { c.Key.Ed = impl.Ed{P: n, D: n, L: n, BX: n, BY: n} }, "A": func(c *impl.Cert, n int) { c.Key.A = impl.Pair{X: n, Y: n} },
 	}
-	far := []int{math.MinInt, math.MinInt + 1, -1 << 40, 1 << 62, math.MaxInt - 1, math.MaxInt}
+}
+
+// veryFar are so great or low that no field takes them.
+func veryFar() []int {
+	return []int{math.MinInt, math.MinInt + 1, -1 << 40, 1 << 62, math.MaxInt - 1, math.MaxInt}
+}
+
+// Very great and very low numbers in each field.
+func TestChainsOfNumbersFarOff(t *testing.T) {
+	fields, far := numberFields(), veryFar()
 	for _, by := range quickSigners() {
 		l := linked(by, by, by)
 		for what, set := range fields {
@@ -162,16 +171,20 @@ func TestChainsOfNumbersFarOff(t *testing.T) {
 // greatestLinks has certificates of as many bytes as can be, whose hosts are all asked of all bounds.
 func greatestLinks(by signer) links {
 	all := slices.Repeat([]signer{by}, chainMost)
-	host := longHost(hostBytes)
 	return linked(all...).turned(func(chain []impl.Cert) {
 		for i := range chain {
-			c := greatestCert()
-			c.From, c.Key = timeLeast, by.key
-			c.Exts.Deny = slices.Repeat([]string{"a." + longHost(hostBytes-2)}, impl.MaxHosts)
-			c.Exts.Allow = append(slices.Repeat(c.Exts.Deny[:1], impl.MaxHosts-1), host)
-			chain[i] = c
+			chain[i] = greatestIssuer(by)
 		}
 	})
+}
+
+// greatestIssuer names itself as its issuer, and is not signed yet; its hosts are allowed by the last of its bounds.
+func greatestIssuer(by signer) impl.Cert {
+	c := greatestCert()
+	c.From, c.Key = timeLeast, by.key
+	c.Exts.Deny = slices.Repeat([]string{"a." + longHost(hostBytes-2)}, impl.MaxHosts)
+	c.Exts.Allow = append(slices.Repeat(c.Exts.Deny[:1], impl.MaxHosts-1), longHost(hostBytes))
+	return c
 }
 
 func TestChainsEndSoon(t *testing.T) {
