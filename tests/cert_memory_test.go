@@ -69,19 +69,25 @@ func TestCertsStandAlone(t *testing.T) {
 			t.Errorf("%s: spare room is read", what)
 		}
 		for _, write := range []func(c impl.Cert) ([]byte, bool){impl.Tbs, impl.WriteCert} {
-			want, wantOk := write(c)
-			got, ok := write(g.cert)
-			if !bytes.Equal(got, want) || ok != wantOk {
-				t.Errorf("%s: spare room is read: %x and %x", what, got, want)
-			}
-			spoil(got, spoilMark)
-			if g.touched() {
-				t.Errorf("%s: an argument was written into, or shares memory with an answer", what)
-			}
-			again, _ := write(g.cert)
-			sameHex(t, what+" a second time", again, want)
+			writesAlone(t, what, write, c, g.cert, g.touched)
 		}
 	}
+}
+
+// writesAlone holds what is written of a value against what is written of one that is guarded.
+func writesAlone[V any](t *testing.T, what string, write func(value V) ([]byte, bool), plain V, guarded V, touched func() bool) {
+	t.Helper()
+	want, wantOk := write(plain)
+	got, ok := write(guarded)
+	if !bytes.Equal(got, want) || ok != wantOk {
+		t.Errorf("%s: spare room is read: %x and %x", what, got, want)
+	}
+	spoil(got, spoilMark)
+	if touched() {
+		t.Errorf("%s: an argument was written into, or shares memory with an answer", what)
+	}
+	again, _ := write(guarded)
+	sameHex(t, what+" a second time", again, want)
 }
 
 // A change of a certificate behind the call changes no bytes that were written of it.

@@ -43,46 +43,56 @@ func saysName(t *testing.T, what string, name []string, want bool) {
 	saysCert(t, what+" as Subject", with(func(c *impl.Cert) { c.Subject = name }), want)
 }
 
-func TestCertOkByNames(t *testing.T) {
-	saysName(t, "nil", nil, false)
+// eachName tells names, and whether they are some.
+func eachName(says func(what string, name []string, want bool)) {
+	says("nil", nil, false)
 	for texts := range 8 {
-		saysName(t, fmt.Sprintf("%d texts", texts), slices.Repeat([]string{"x"}, texts), within(texts, 1, 4))
+		says(fmt.Sprintf("%d texts", texts), slices.Repeat([]string{"x"}, texts), within(texts, 1, 4))
 	}
 	for size := range 2*impl.MaxText + 3 {
 		text := strings.Repeat("y", size)
 		for _, name := range [][]string{{text}, {text, "x", "x", "x"}, {"x", "x", "x", text}, {"x", text}} {
-			saysName(t, fmt.Sprintf("a text of %d bytes", size), name, within(size, 1, 40))
+			says(fmt.Sprintf("a text of %d bytes", size), name, within(size, 1, 40))
 		}
 	}
 	for b := range 256 {
 		one := string([]byte{byte(b)})
 		for _, text := range []string{one, one + "a", "a" + one, "a" + one + "a", strings.Repeat("a", impl.MaxText-1) + one} {
-			saysName(t, fmt.Sprintf("byte %d", b), []string{text}, within(b, 32, 126))
-			saysName(t, fmt.Sprintf("byte %d in the last text", b), []string{"x", "x", text}, within(b, 32, 126))
+			says(fmt.Sprintf("byte %d", b), []string{text}, within(b, 32, 126))
+			says(fmt.Sprintf("byte %d in the last text", b), []string{"x", "x", text}, within(b, 32, 126))
 		}
 	}
 	for _, text := range []string{"é", "日本", "\u00a0", "\u2028", "a\nb", "\xff\xfe"} {
-		saysName(t, "other letters", []string{text}, false)
+		says("other letters", []string{text}, false)
 	}
-	saysName(t, "blanks alone", []string{" ", "    "}, true)
-	saysName(t, "texts alike", []string{"a", "a", "a", "a"}, true)
+	says("blanks alone", []string{" ", "    "}, true)
+	says("texts alike", []string{"a", "a", "a", "a"}, true)
+}
+
+func TestCertOkByNames(t *testing.T) {
+	eachName(func(what string, name []string, want bool) { saysName(t, what, name, want) })
+}
+
+// eachSpan tells From and To, and whether they are times of which the second one is not ahead.
+func eachSpan(says func(from int, to int, want bool)) {
+	list := append(edgeTimes(), timeShortMost+1)
+	for _, from := range list {
+		for _, to := range list {
+			says(from, to, isOne(from) && isOne(to) && from <= to)
+		}
+	}
+	for near := -2; near <= 2; near++ {
+		says(1000, 1000+near, near >= 0)
+	}
 }
 
 func TestCertOkByTimes(t *testing.T) {
-	list := append(edgeTimes(), timeShortMost+1)
 	seen := tally{}
-	for _, from := range list {
-		for _, to := range list {
-			c := with(func(c *impl.Cert) { c.From, c.To = from, to })
-			want := isOne(from) && isOne(to) && from <= to
-			saysCert(t, "times", c, want)
-			seen.count(want)
-		}
-	}
+	eachSpan(func(from int, to int, want bool) {
+		saysCert(t, "times", with(func(c *impl.Cert) { c.From, c.To = from, to }), want)
+		seen.count(want)
+	})
 	seen.enough(t, 50)
-	for near := -2; near <= 2; near++ {
-		saysCert(t, "From beside To", with(func(c *impl.Cert) { c.From, c.To = 1000, 1000+near }), near >= 0)
-	}
 }
 
 func TestCertOkByKey(t *testing.T) {
@@ -196,28 +206,30 @@ func TestCertOkByNets(t *testing.T) {
 	saysCert(t, "nil for an address", withExts(func(x *impl.Exts) { x.Nets = [][]int{nil} }), false)
 }
 
-func TestCertOkByPurposes(t *testing.T) {
-	for _, n := range append(farNumbers(), -1, 0, 1, 2, 999, 1000, 1001, 1002) {
-		saysCert(t, "one purpose", withExts(func(x *impl.Exts) { x.Purposes = []int{n} }), within(n, 1, 1000))
-		saysCert(t, "ahead of another", withExts(func(x *impl.Exts) { x.Purposes = []int{n, 1000} }), within(n, 1, 999))
-		saysCert(t, "behind another", withExts(func(x *impl.Exts) { x.Purposes = []int{1, n} }), within(n, 2, 1000))
-	}
-	numbers := []int{1, 2, 3, 500, 1000}
+// eachOrder tells all lists of at most three of these numbers, which rise, and whether the list does.
+func eachOrder(numbers []int, says func(list []int, rising bool)) {
 	for size := range 4 {
-		indexes := make([]byte, len(numbers))
-		for i := range indexes {
-			indexes[i] = byte(i)
-		}
-		eachText(indexes, size, func(text []byte) {
+		eachText(allBytes()[:len(numbers)], size, func(text []byte) {
 			list := []int{}
 			rising := true
 			for i, b := range text {
 				rising = rising && (i == 0 || b > text[i-1])
 				list = append(list, numbers[b])
 			}
-			saysCert(t, "in an order", withExts(func(x *impl.Exts) { x.Purposes = list }), rising)
+			says(list, rising)
 		})
 	}
+}
+
+func TestCertOkByPurposes(t *testing.T) {
+	for _, n := range append(farNumbers(), -1, 0, 1, 2, 999, 1000, 1001, 1002) {
+		saysCert(t, "one purpose", withExts(func(x *impl.Exts) { x.Purposes = []int{n} }), within(n, 1, 1000))
+		saysCert(t, "ahead of another", withExts(func(x *impl.Exts) { x.Purposes = []int{n, 1000} }), within(n, 1, 999))
+		saysCert(t, "behind another", withExts(func(x *impl.Exts) { x.Purposes = []int{1, n} }), within(n, 2, 1000))
+	}
+	eachOrder([]int{1, 2, 3, 500, 1000}, func(list []int, rising bool) {
+		saysCert(t, "in an order", withExts(func(x *impl.Exts) { x.Purposes = list }), rising)
+	})
 	saysCert(t, "that fall at the end", withExts(func(x *impl.Exts) { x.Purposes = []int{1, 2, 3, 4, 6, 5} }), false)
 	saysCert(t, "that stand still at the end", withExts(func(x *impl.Exts) { x.Purposes = []int{1, 2, 3, 4, 5, 5} }), false)
 }

@@ -451,23 +451,28 @@ func TestReadCertOfWrongNumbersAndNames(t *testing.T) {
 	}
 }
 
+// eachWrongSig tells what is signed with an item behind it that is no signature.
+func eachWrongSig(tbs node, says func(what string, n node)) {
+	says("no byte 0", knot(48, tbs, leaf(3)))
+	says("no Sig behind it", knot(48, tbs, leaf(3, 0)))
+	says("65 bytes", knot(48, tbs, leaf(3, make([]byte, 66)...)))
+	for first := 1; first < 256; first++ {
+		says("another first byte", knot(48, tbs, leaf(3, byte(first), 1, 2)))
+	}
+	for _, tag := range rightTags() {
+		if tag != 3 && tag&32 == 0 {
+			says("another Tag", knot(48, tbs, leaf(tag, 0, 1, 2)))
+		}
+	}
+	says("a list", knot(48, tbs, knot(48, leaf(3, 0, 1))))
+}
+
 func TestReadCertOfAWrongSig(t *testing.T) {
 	tbs := tbsNode(plainCert())
 	for size := range 70 {
 		readsAsItIs(t, "so many bytes", knot(48, tbs, leaf(3, make([]byte, size)...)).text())
 	}
-	refusesForm(t, "no byte 0", knot(48, tbs, leaf(3)))
-	refusesForm(t, "no Sig behind it", knot(48, tbs, leaf(3, 0)))
-	refusesForm(t, "65 bytes", knot(48, tbs, leaf(3, make([]byte, 66)...)))
-	for first := 1; first < 256; first++ {
-		refusesForm(t, "another first byte", knot(48, tbs, leaf(3, byte(first), 1, 2)))
-	}
-	for _, tag := range rightTags() {
-		if tag != 3 && tag&32 == 0 {
-			refusesForm(t, "another Tag", knot(48, tbs, leaf(tag, 0, 1, 2)))
-		}
-	}
-	refusesForm(t, "a list", knot(48, tbs, knot(48, leaf(3, 0, 1))))
+	eachWrongSig(tbs, func(what string, n node) { refusesForm(t, what, n) })
 }
 
 func TestReadCertWithAWrongKey(t *testing.T) {

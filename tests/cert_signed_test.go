@@ -101,25 +101,30 @@ func TestSignedOfACertThatIsNotOk(t *testing.T) {
 	saysSigned(t, "nothing", impl.Cert{}, impl.Key{}, false)
 }
 
+// eachOtherSig tells signatures with a byte changed, fewer or more, and other bytes.
+func eachOtherSig(sig []byte, says func(what string, other []byte)) {
+	for i := range sig {
+		for _, flip := range []byte{1, 16, 128, 255} {
+			other := slices.Clone(sig)
+			other[i] ^= flip
+			says("a byte changed", other)
+		}
+		says("a byte fewer", slices.Delete(slices.Clone(sig), i, i+1))
+		says("a byte more", slices.Insert(slices.Clone(sig), i, 0))
+	}
+	for _, other := range [][]byte{nil, {0}, append(slices.Clone(sig), 0), append([]byte{0}, sig...), make([]byte, len(sig)), make([]byte, 1000)} {
+		says("other bytes", other)
+	}
+}
+
 func TestSignedWithAnotherSig(t *testing.T) {
 	for _, by := range signers() {
 		c := sealedBy(fullCert(), by)
 		sig := c.Sig
-		for i := range sig {
-			for _, flip := range []byte{1, 16, 128, 255} {
-				c.Sig = slices.Clone(sig)
-				c.Sig[i] ^= flip
-				saysSigned(t, by.name+", a byte changed", c, by.key, false)
-			}
-			c.Sig = slices.Delete(slices.Clone(sig), i, i+1)
-			saysSigned(t, by.name+", a byte fewer", c, by.key, false)
-			c.Sig = slices.Insert(slices.Clone(sig), i, 0)
-			saysSigned(t, by.name+", a byte more", c, by.key, false)
-		}
-		for _, other := range [][]byte{nil, {0}, append(slices.Clone(sig), 0), append([]byte{0}, sig...), make([]byte, len(sig)), make([]byte, 1000)} {
+		eachOtherSig(sig, func(what string, other []byte) {
 			c.Sig = other
-			saysSigned(t, by.name+", other bytes", c, by.key, false)
-		}
+			saysSigned(t, by.name+", "+what, c, by.key, false)
+		})
 		c.Sig = sig
 		saysSigned(t, by.name+", as it was", c, by.key, true)
 	}
